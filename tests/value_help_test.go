@@ -200,3 +200,14 @@ func overlap(a, b []stretch) bool {
 	}
 	return false
 }
+
+// checkApart asks that no two lists or texts of one answer share memory.
+func checkApart(t *testing.T, v impl.Value) {
+	t.Helper()
+	stretches := memoryOf(v)
+	for i := range stretches {
+		if overlap(stretches[i:i+1], stretches[i+1:]) {
+			t.Errorf("two parts of one answer share memory: %v", v)
+		}
+	}
+}

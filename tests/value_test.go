@@ -550,12 +550,7 @@ func TestP21AnswersAreNewMemory(t *testing.T) {
 	if overlap(memoryOf(parsed), memoryOf(other)) {
 		t.Error("two answers share memory")
 	}
-	stretches := memoryOf(parsed)
-	for i := range stretches {
-		if overlap(stretches[i:i+1], stretches[i+1:]) {
-			t.Error("two lists of one answer share memory")
-		}
-	}
+	checkApart(t, parsed)
 	text := strings.Clone("a")
 	plain := impl.Value{Kind: impl.JsText, Text: text}
 	printed := impl.Print(plain)
