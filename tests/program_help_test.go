@@ -1,6 +1,7 @@
 package tests
 
 import (
+	"math"
 	"reflect"
 	"slices"
 	"testing"
@@ -48,6 +49,18 @@ func calling(procs ...int64) impl.Proc {
 		stmts = append(stmts, call(y))
 	}
 	return proc(append(stmts, back())...)
+}
+
+// wrongProcs are not right, each in a way of its own.
+func wrongProcs() []impl.Proc {
+	return []impl.Proc{
+		{}, proc(), proc(skip()), proc(jump(0)), proc(call(0)), long(13), long(100), proc(impl.Stmt{}, back()), proc(impl.Stmt{Kind: 10}, back()), proc(skip(), impl.Stmt{Kind: impl.StBack, X: 1}),
+		proc(jump(2), back()), proc(jump(-1), back()), proc(jump(12), back()), proc(jump(math.MaxInt64), back()), proc(jump(math.MinInt64), back()),
+		proc(skip(), jump(3), back()), proc(impl.Stmt{Kind: impl.StJump, X: 1}, back()), proc(call(4), back()), proc(call(-1), back()),
+		proc(mark(6), back()), proc(assign(0, 6), back()), proc(impl.Stmt{Kind: math.MinInt64}, back()), proc(back(), skip()), proc(back(), back(), jump(0)),
+		proc(skip(), back(), impl.Stmt{Kind: impl.StSkip, Y: 1}, back()), proc(append(slices.Repeat([]impl.Stmt{jump(0)}, 12), back())...),
+		proc(jump(0), impl.Stmt{Kind: impl.StJump, Y: 3}, back()), proc(jump(0), impl.Stmt{Kind: impl.StBack, Y: 1}),
+	}
 }
 
 // roomy is p in memory of its own, with strangers in the spare room behind each list.
