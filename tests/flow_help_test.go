@@ -34,15 +34,20 @@ func isWay(p impl.Proc, way []int64) bool {
 	return true
 }
 
-// stmtsWhere tells the statements of p that are so, rising.
-func stmtsWhere(p impl.Proc, so func(i int64) bool) []int64 {
+// numbersWhere tells the numbers below n that are so, rising.
+func numbersWhere(n int, so func(i int64) bool) []int64 {
 	var list []int64
-	for i := range int64(len(p.Stmts)) {
+	for i := range int64(n) {
 		if so(i) {
 			list = append(list, i)
 		}
 	}
 	return list
+}
+
+// stmtsWhere tells the statements of p that are so, rising.
+func stmtsWhere(p impl.Proc, so func(i int64) bool) []int64 {
+	return numbersWhere(len(p.Stmts), so)
 }
 
 // shortest has for each statement the size of a shortest way to it, 0 where there is none: steps are tried until none betters it.
