@@ -211,3 +211,64 @@ func spoilLists(lists [][]int64) {
 		lists[i] = []int64{-4712}
 	}
 }
+
+// checkNewMemory asks that no two lists of an answer, nor of two answers, share any memory, and that what is asked is told again
+// when all of it was written over.
+func checkNewMemory(t *testing.T, name string, asked func() (lists [][]int64, holders [][][]int64)) {
+	t.Helper()
+	lists, holders := asked()
+	var lie []stretch
+	var want [][]int64
+	for i, got := range lists {
+		if overlap(lie, numbersAt(got)) {
+			t.Fatalf("%s: answer %d shares memory: %v", name, i, got)
+		}
+		lie = append(lie, numbersAt(got)...)
+		want = append(want, slices.Clone(got))
+	}
+	for _, got := range lists {
+		spoilNumbers(got)
+	}
+	for i, told := range holders {
+		if slices.ContainsFunc(told, func(list []int64) bool { return list[0] == -4712 }) {
+			t.Fatalf("%s: what holds answer %d holds another one, too", name, i)
+		}
+		spoilLists(told)
+	}
+	if again, _ := asked(); !sameLists(again, want) {
+		t.Fatalf("%s: %v, once written over %v", name, want, again)
+	}
+}
+
+// callers are procedures of all kinds of statements, each with a call.
+func callers() impl.Program {
+	return program(
+		proc(mark(1), call(1), jump(0), back()), proc(assign(0, 2), call(2), both(3, 4), back()),
+		proc(wipe(5), call(0), ask(1), call(1), back()), proc(skip(), call(2), back()),
+	)
+}
+
+// inOneField calls f with callers in which each field of each statement alone is made each number, and tells whether that is a
+// Program still.
+func inOneField(t *testing.T, f func(p impl.Program, is bool)) {
+	t.Helper()
+	wrong := 0
+	for at, one := range callers().Procs {
+		for i := range one.Stmts {
+			for _, number := range nearAndFar(-2, 14) {
+				for field := range 3 {
+					p := roomy(callers())
+					s := &p.Procs[at].Stmts[i]
+					*[]*int64{&s.Kind, &s.X, &s.Y}[field] = number
+					if !isProgram(p) {
+						wrong++
+					}
+					f(p, isProgram(p))
+				}
+			}
+		}
+	}
+	if wrong < 1000 {
+		t.Error("only", wrong, "wrong ones")
+	}
+}

@@ -1,6 +1,7 @@
 package tests
 
 import (
+	"fmt"
 	"math"
 	"slices"
 	"testing"
@@ -261,34 +262,15 @@ func TestP9OneWrongProc(t *testing.T) {
 	}
 }
 
-// Each field of each statement alone is made each number.
 func TestP9WrongInOneField(t *testing.T) {
-	right := program(
-		proc(mark(1), call(1), jump(0), back()), proc(assign(0, 2), call(2), both(3, 4), back()),
-		proc(wipe(5), call(0), ask(1), call(1), back()), proc(skip(), call(2), back()),
-	)
-	checkWhoCalls(t, right)
-	wrong := 0
-	for at, one := range right.Procs {
-		for i := range one.Stmts {
-			for _, number := range nearAndFar(-2, 14) {
-				for field := range 3 {
-					p := roomy(right)
-					s := &p.Procs[at].Stmts[i]
-					*[]*int64{&s.Kind, &s.X, &s.Y}[field] = number
-					if isProgram(p) {
-						checkWhoCalls(t, p)
-						continue
-					}
-					wrong++
-					checkWhoCallsWrong(t, "one wrong field", p)
-				}
-			}
+	checkWhoCalls(t, callers())
+	inOneField(t, func(p impl.Program, is bool) {
+		if is {
+			checkWhoCalls(t, p)
+		} else {
+			checkWhoCallsWrong(t, "one wrong field", p)
 		}
-	}
-	if wrong < 1000 {
-		t.Error("only", wrong, "wrong ones")
-	}
+	})
 }
 
 // The spare room behind procedures and statements is no part of them, whatever calls lie there.
@@ -325,28 +307,7 @@ func callsAnswers(p impl.Program) (lists [][]int64, holders [][][]int64) {
 func TestP21CallsAnswersAreNewMemory(t *testing.T) {
 	programs := []impl.Program{calls(nil), calls(nil, nil, nil, nil), calls([]int64{1}, []int64{2}, []int64{3}, nil), callAll(), twoRounds(), calls([]int64{1, 2}, nil, []int64{0, 1})}
 	for _, p := range programs {
-		lists, holders := callsAnswers(p)
-		var lie []stretch
-		var want [][]int64
-		for i, got := range lists {
-			if overlap(lie, numbersAt(got)) {
-				t.Fatalf("%v: answer %d shares memory: %v", p, i, got)
-			}
-			lie = append(lie, numbersAt(got)...)
-			want = append(want, slices.Clone(got))
-		}
-		for _, got := range lists {
-			spoilNumbers(got)
-		}
-		for i, told := range holders {
-			if slices.ContainsFunc(told, func(group []int64) bool { return group[0] == -4712 }) {
-				t.Fatalf("%v: what holds answer %d holds another one, too", p, i)
-			}
-			spoilLists(told)
-		}
-		if again, _ := callsAnswers(p); !sameLists(again, want) {
-			t.Fatalf("%v: %v, once written over %v", p, want, again)
-		}
+		checkNewMemory(t, fmt.Sprint(p), func() ([][]int64, [][][]int64) { return callsAnswers(p) })
 	}
 }
 
