@@ -212,18 +212,26 @@ func spoilLists(lists [][]int64) {
 	}
 }
 
+// checkListsApart asks that no two of these lists share any memory.
+func checkListsApart[T any](t *testing.T, name string, lists [][]T) {
+	t.Helper()
+	var lie []stretch
+	for i, list := range lists {
+		if overlap(lie, liesAt(list)) {
+			t.Fatalf("%s: answer %d shares memory: %v", name, i, list)
+		}
+		lie = append(lie, liesAt(list)...)
+	}
+}
+
 // checkNewMemory asks that no two lists of an answer, nor of two answers, share any memory, and that what is asked is told again
 // when all of it was written over.
 func checkNewMemory(t *testing.T, name string, asked func() (lists [][]int64, holders [][][]int64)) {
 	t.Helper()
 	lists, holders := asked()
-	var lie []stretch
+	checkListsApart(t, name, lists)
 	var want [][]int64
-	for i, got := range lists {
-		if overlap(lie, numbersAt(got)) {
-			t.Fatalf("%s: answer %d shares memory: %v", name, i, got)
-		}
-		lie = append(lie, numbersAt(got)...)
+	for _, got := range lists {
 		want = append(want, slices.Clone(got))
 	}
 	for _, got := range lists {
@@ -270,5 +278,41 @@ func inOneField(t *testing.T, f func(p impl.Program, is bool)) {
 	}
 	if wrong < 1000 {
 		t.Error("only", wrong, "wrong ones")
+	}
+}
+
+// howManyProcs calls f with programs of none, of up to MaxProcs procedures, and of more, and tells whether that is a Program.
+func howManyProcs(f func(p impl.Program, is bool)) {
+	f(impl.Program{}, false)
+	f(impl.Program{Procs: []impl.Proc{}}, false)
+	for n := 1; n <= 20; n++ {
+		for _, one := range []impl.Proc{long(1), long(12), calling(0), calling(int64(min(n, 4)) - 1), carrying()} {
+			f(program(slices.Repeat([]impl.Proc{one}, n)...), n <= 4)
+		}
+	}
+}
+
+// howManyStmts calls f with programs of which one procedure has none, up to MaxStmts statements, or more, and tells whether that is
+// a Program.
+func howManyStmts(f func(p impl.Program, is bool)) {
+	for n := range 16 {
+		for at := range 4 {
+			p := calls([]int64{1}, []int64{2}, []int64{3}, []int64{0})
+			p.Procs[at] = long(n)
+			f(p, n >= 1 && n <= 12)
+		}
+	}
+}
+
+// oneWrongProc calls f with programs that are right but for one procedure.
+func oneWrongProc(f func(p impl.Program)) {
+	for _, wrong := range wrongProcs() {
+		for n := 1; n <= 4; n++ {
+			for at := range n {
+				procs := slices.Repeat([]impl.Proc{calling(0)}, n)
+				procs[at] = wrong
+				f(program(procs...))
+			}
+		}
 	}
 }

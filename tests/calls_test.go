@@ -184,34 +184,17 @@ func TestP9ManyPrograms(t *testing.T) {
 	}
 }
 
-func TestP9EdgesOfHowManyProcs(t *testing.T) {
-	checkWhoCallsWrong(t, "none", impl.Program{})
-	checkWhoCallsWrong(t, "none, a list", impl.Program{Procs: []impl.Proc{}})
-	for n := 1; n <= 20; n++ {
-		for _, one := range []impl.Proc{long(1), long(12), calling(0), calling(int64(min(n, 4)) - 1)} {
-			p := program(slices.Repeat([]impl.Proc{one}, n)...)
-			if n > impl.MaxProcs {
-				checkWhoCallsWrong(t, "too many", p)
-				continue
-			}
-			checkWhoCalls(t, p)
-			checkPromise9(t, p)
+func TestP9EdgesOfHowMany(t *testing.T) {
+	asked := func(p impl.Program, is bool) {
+		if !is {
+			checkWhoCallsWrong(t, "too few or too many", p)
+			return
 		}
+		checkWhoCalls(t, p)
+		checkPromise9(t, p)
 	}
-}
-
-func TestP9EdgesOfHowManyStmts(t *testing.T) {
-	for n := range 16 {
-		for at := range 4 {
-			p := calls([]int64{1}, []int64{0}, []int64{3}, []int64{2})
-			p.Procs[at] = long(n)
-			if n >= 1 && n <= impl.MaxStmts {
-				checkWhoCalls(t, p)
-			} else {
-				checkWhoCallsWrong(t, "too few or too many", p)
-			}
-		}
-	}
+	howManyProcs(asked)
+	howManyStmts(asked)
 }
 
 func TestP9EdgesOfTheProc(t *testing.T) {
@@ -251,15 +234,7 @@ func TestP9EdgesOfTheCalled(t *testing.T) {
 }
 
 func TestP9OneWrongProc(t *testing.T) {
-	for _, wrong := range wrongProcs() {
-		for n := 1; n <= 4; n++ {
-			for at := range n {
-				procs := slices.Repeat([]impl.Proc{calling(0)}, n)
-				procs[at] = wrong
-				checkWhoCallsWrong(t, "one wrong procedure", program(procs...))
-			}
-		}
-	}
+	oneWrongProc(func(p impl.Program) { checkWhoCallsWrong(t, "one wrong procedure", p) })
 }
 
 func TestP9WrongInOneField(t *testing.T) {

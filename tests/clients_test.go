@@ -289,12 +289,12 @@ func TestP21ClientsAnswersAreNewMemory(t *testing.T) {
 		for _, s := range rightStmts() {
 			answers, unit := clientAnswers(client, s), impl.Unit()
 			var want [][]int64
-			lie := numbersAt(unit)
+			lie := liesAt(unit)
 			for i, got := range answers {
-				if len(got) != 7 || overlap(lie, numbersAt(got)) {
+				if len(got) != 7 || overlap(lie, liesAt(got)) {
 					t.Fatalf("client %d, %v: answer %d shares memory: %v", client, s, i, got)
 				}
-				lie = append(lie, numbersAt(got)...)
+				lie = append(lie, liesAt(got)...)
 				want = append(want, slices.Clone(got))
 			}
 			for _, got := range answers {

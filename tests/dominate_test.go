@@ -293,10 +293,10 @@ func TestP21GatesAnswersAreNewMemory(t *testing.T) {
 			askGates(p, n, 0)
 			var lie []stretch
 			for _, got := range answers {
-				if slices.Contains(got, -4711) || overlap(lie, numbersAt(got)) {
+				if slices.Contains(got, -4711) || overlap(lie, liesAt(got)) {
 					t.Fatalf("%v: of %d: an answer shares memory: %v", p, n, answers)
 				}
-				lie = append(lie, numbersAt(got)...)
+				lie = append(lie, liesAt(got)...)
 			}
 			for _, got := range answers {
 				spoilNumbers(got)

@@ -187,8 +187,9 @@ func smallProcs(n int, f func(p impl.Proc)) {
 	}
 }
 
-// numbersAt is where a list of numbers lies, spare room included.
-func numbersAt(numbers []int64) []stretch {
-	from := uintptr(unsafe.Pointer(unsafe.SliceData(numbers)))
-	return []stretch{{from, from + uintptr(cap(numbers))*unsafe.Sizeof(int64(0))}}
+// liesAt is where a list lies, spare room included.
+func liesAt[T any](list []T) []stretch {
+	var one T
+	from := uintptr(unsafe.Pointer(unsafe.SliceData(list)))
+	return []stretch{{from, from + uintptr(cap(list))*unsafe.Sizeof(one)}}
 }

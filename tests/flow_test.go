@@ -347,10 +347,10 @@ func TestP21WaysLieApart(t *testing.T) {
 			ways := impl.Ways(p, at, 9)
 			var lie []stretch
 			for _, way := range ways {
-				if overlap(lie, numbersAt(way)) {
+				if overlap(lie, liesAt(way)) {
 					t.Fatalf("%v: two Ways to %d share memory", p, at)
 				}
-				lie = append(lie, numbersAt(way)...)
+				lie = append(lie, liesAt(way)...)
 			}
 		}
 	}

@@ -8,10 +8,9 @@ import (
 )
 
 // hasFact is the tests' own word on what is in a set.
-func hasFact(set, fact int64) bool {
-	k := knownOf(set)
-	return fact == 0 && k.always || fact > 0 && k.of[fact-1]
-}
+func hasFact(set, fact int64) bool { return knownOf(set).has(fact) }
+
+func (k known) has(fact int64) bool { return fact == 0 && k.always || fact > 0 && k.of[fact-1] }
 
 // without is the set less one fact that it has.
 func without(set, fact int64) int64 {

@@ -469,10 +469,10 @@ func TestP21InsideAnswersAreNewMemory(t *testing.T) {
 			var lie []stretch
 			var want [][]int64
 			for i, got := range answers {
-				if overlap(lie, numbersAt(got)) {
+				if overlap(lie, liesAt(got)) {
 					t.Fatalf("%s, client %d: answer %d shares memory: %v", c.name, client, i, got)
 				}
-				lie = append(lie, numbersAt(got)...)
+				lie = append(lie, liesAt(got)...)
 				want = append(want, slices.Clone(got))
 			}
 			for _, got := range answers {

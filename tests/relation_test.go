@@ -262,16 +262,16 @@ func TestP21RelationsArgumentsStay(t *testing.T) {
 func TestP21RelationsAnswersAreNewMemory(t *testing.T) {
 	for _, one := range told() {
 		r, unit, empty := roomyNumbers(one), impl.Unit(), allOf(0)
-		lie := slices.Concat(numbersAt(r), numbersAt(unit), numbersAt(empty))
+		lie := slices.Concat(liesAt(r), liesAt(unit), liesAt(empty))
 		answers := [][]int64{
 			impl.Unit(), impl.Unit(), impl.Compose(r, unit), impl.Compose(unit, r), impl.Compose(r, r), impl.Compose(r, unit), impl.Join(r, r), impl.Join(r, empty),
 			impl.Join(empty, r), impl.Join(r, r), impl.Compose(empty, r), impl.Compose(unit, unit), impl.Join(unit, unit),
 		}
 		for i, got := range answers {
-			if len(got) != 7 || overlap(lie, numbersAt(got)) {
+			if len(got) != 7 || overlap(lie, liesAt(got)) {
 				t.Fatalf("%v: answer %d shares memory: %v", r, i, got)
 			}
-			lie = append(lie, numbersAt(got)...)
+			lie = append(lie, liesAt(got)...)
 		}
 		for _, got := range answers {
 			spoilNumbers(got)

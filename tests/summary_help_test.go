@@ -55,16 +55,22 @@ func (s *sums) step(i, fact int, one impl.Proc, client int64, end ends) bool {
 	return more
 }
 
+// ahead is what holds ahead of a statement of a procedure at whose entry k holds.
+func (s *sums) ahead(proc int64, at int, k known) known {
+	var ahead known
+	for fact := range int64(7) {
+		if k.has(fact) {
+			ahead = ahead.with(s[proc][fact][at])
+		}
+	}
+	return ahead
+}
+
 func (s *sums) end(p impl.Program, proc int64, k known) known {
 	var end known
-	for fact := range int64(7) {
-		if fact == 0 && !k.always || fact > 0 && !k.of[fact-1] {
-			continue
-		}
-		for at, stmt := range p.Procs[proc].Stmts {
-			if stmt.Kind == impl.StBack {
-				end = end.with(s[proc][fact][at])
-			}
+	for at, stmt := range p.Procs[proc].Stmts {
+		if stmt.Kind == impl.StBack {
+			end = end.with(s.ahead(proc, at, k))
 		}
 	}
 	return end
@@ -287,22 +293,24 @@ func checkNoSumsOfBoth(t *testing.T, name string, p impl.Program) {
 	}
 }
 
-// runs calls f with what holds at the end of each run of a procedure from this statement on. It ends where no procedure calls one
-// that comes back to it, and no jump goes back.
-func runs(p impl.Program, client, proc, at int64, k known, f func(end known)) {
-	one := p.Procs[proc]
+// runs calls f with what holds at the end of each run of a procedure from this statement on, and see with what holds ahead of each
+// place on the way there, those in what is called too. It ends where no procedure calls one that comes back to it, and no jump goes
+// back.
+func runs(p impl.Program, client int64, here impl.Place, k known, see func(here impl.Place, k known), f func(end known)) {
+	see(here, k)
+	one := p.Procs[here.Proc]
 	goOn := func(k known) {
 		for to := range int64(len(one.Stmts)) {
-			if isStep(one, at, to) {
-				runs(p, client, proc, to, k, f)
+			if isStep(one, here.At, to) {
+				runs(p, client, impl.Place{Proc: here.Proc, At: to}, k, see, f)
 			}
 		}
 	}
-	switch s := one.Stmts[at]; s.Kind {
+	switch s := one.Stmts[here.At]; s.Kind {
 	case impl.StBack:
 		f(k)
 	case impl.StCall:
-		runs(p, client, s.Y, 0, k.inside(client), func(end known) { goOn(k.backFrom(end)) })
+		runs(p, client, impl.Place{Proc: s.Y}, k.inside(client), see, func(end known) { goOn(k.backFrom(end)) })
 	default:
 		goOn(k.behind(client, s))
 	}

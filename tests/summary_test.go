@@ -254,7 +254,7 @@ func TestP10AllRunsTogether(t *testing.T) {
 		for i, table := range impl.Tables(p, client) {
 			for _, set := range []int64{0, 1, 2, 4, 8, 16, 32, 64, 127, int64(d.below(allSets)), int64(d.below(allSets))} {
 				var all known
-				runs(p, client, int64(i), 0, knownOf(set), func(end known) { all = all.with(end) })
+				runs(p, client, impl.Place{Proc: int64(i)}, knownOf(set), func(impl.Place, known) {}, func(end known) { all = all.with(end) })
 				if got := impl.Image(table, set); got != all.set() {
 					t.Fatalf("%v, client %d: of %d %v makes %d of %d, all runs %d", p, client, i, table, got, set, all.set())
 				}
@@ -325,35 +325,26 @@ func TestP10WhatHolds(t *testing.T) {
 }
 
 func TestP10EdgesOfHowManyProcs(t *testing.T) {
-	checkNoSumsOfBoth(t, "none", impl.Program{})
-	checkNoSumsOfBoth(t, "none, a list", impl.Program{Procs: []impl.Proc{}})
-	for n := 1; n <= 20; n++ {
-		for _, one := range []impl.Proc{long(1), long(12), calling(0), calling(int64(min(n, 4)) - 1), carrying()} {
-			p := program(slices.Repeat([]impl.Proc{one}, n)...)
-			if n > impl.MaxProcs {
-				checkNoSumsOfBoth(t, "too many", p)
-				continue
-			}
+	howManyProcs(func(p impl.Program, is bool) {
+		if is {
 			checkSummary(t, p)
+		} else {
+			checkNoSumsOfBoth(t, "too few or too many", p)
 		}
-	}
+	})
 }
 
 func TestP10EdgesOfHowManyStmts(t *testing.T) {
-	for n := range 16 {
-		for at := range 4 {
-			p := calls([]int64{1}, []int64{0}, []int64{3}, []int64{2})
-			p.Procs[at] = long(n)
-			if n < 1 || n > impl.MaxStmts {
-				checkNoSumsOfBoth(t, "too few or too many", p)
-				continue
-			}
-			for _, client := range bothClients {
-				checkSums(t, p, client)
-				checkRules(t, p, client)
-			}
+	howManyStmts(func(p impl.Program, is bool) {
+		if !is {
+			checkNoSumsOfBoth(t, "too few or too many", p)
+			return
 		}
-	}
+		for _, client := range bothClients {
+			checkSums(t, p, client)
+			checkRules(t, p, client)
+		}
+	})
 }
 
 func TestP10EdgesOfTheClient(t *testing.T) {
@@ -474,15 +465,7 @@ func TestP10EdgesOfTheTables(t *testing.T) {
 }
 
 func TestP10OneWrongProc(t *testing.T) {
-	for _, wrong := range wrongProcs() {
-		for n := 1; n <= 4; n++ {
-			for at := range n {
-				procs := slices.Repeat([]impl.Proc{calling(0)}, n)
-				procs[at] = wrong
-				checkNoSumsOfBoth(t, "one wrong procedure", program(procs...))
-			}
-		}
-	}
+	oneWrongProc(func(p impl.Program) { checkNoSumsOfBoth(t, "one wrong procedure", p) })
 }
 
 func TestP10WrongInOneField(t *testing.T) {
