@@ -335,6 +335,7 @@ func checkEitherServer(t *testing.T, why string, s impl.Server, is bool) {
 	if is != isServer(s) {
 		t.Fatalf("%s: %s: the test's own word is %v", why, shownServer(s), !is)
 	}
+	checkLookedOver(t, why, s, is)
 	if is {
 		checkRightServer(t, s)
 	} else {

@@ -139,12 +139,15 @@ func asksOf(t *testing.T, text string, client, proc, at, fact int64) int64 {
 	return told[2]
 }
 
-func TestP18CodesByHand(t *testing.T) {
-	for _, c := range []struct {
-		text                   string
-		client, proc, at, fact int64
-		want                   int64
-	}{
+// codeByHand is what is answered where one thing is asked of a program.
+type codeByHand struct {
+	text                   string
+	client, proc, at, fact int64
+	want                   int64
+}
+
+func codesByHand() []codeByHand {
+	return []codeByHand{
 		{"m0 r", 1, 0, 1, 1, 1}, {"m0 r", 1, 0, 0, 1, 2}, {"m0 r", 1, 0, 1, 2, 2}, {"m0 r", 1, 0, 1, 6, 2}, {"m0 r", 2, 0, 1, 1, 2}, {"m0 r", 2, 0, 0, 1, 1}, {"m0 r", 2, 0, 1, 6, 1}, {"m5 r", 1, 0, 1, 6, 1}, {"l3 r", 2, 0, 1, 4, 2}, {"l3 r", 2, 0, 0, 4, 1}, {"m0 c1,0 l0 r", 1, 0, 3, 2, 1}, {"m0 c1,0 l0 r", 1, 0, 3, 1, 2}, {"j2 m0 r", 1, 0, 2, 1, 1}, {"j2 l1 r", 2, 0, 2, 2, 1},
 		// Where nobody comes, and where there is no such place.
 		{"r m0 r", 1, 0, 2, 1, 2}, {"r", 2, 0, 0, 3, 1}, {"r", 2, 0, 1, 3, 2}, {"r", 2, 1, 0, 3, 2}, {"r;r", 2, 1, 0, 4, 2}, {"r;r", 2, 3, 11, 1, 2}, {"s s s s s s s s s s s r", 2, 0, 11, 1, 1},
@@ -154,7 +157,11 @@ func TestP18CodesByHand(t *testing.T) {
 		{"k2 m0 k3 r;r;k1 r;k1 r", 1, 0, 1, 1, 2}, {"k1 m0 k1 r;r", 1, 0, 1, 1, 2}, {"k1 m0 k1 r;r", 1, 0, 3, 1, 1}, {"k1 m0 k1 r;r", 1, 1, 0, 1, 1},
 		// Those that call themselves.
 		{"m0 k1 r;j4 c2,1 c1,0 k1 r", 1, 0, 2, 3, 1}, {"m0 k1 r;j4 c2,1 c1,0 k1 r", 1, 0, 1, 3, 2}, {"k0 r", 2, 0, 1, 1, 2}, {"k0 r", 2, 0, 1, 4, 1},
-	} {
+	}
+}
+
+func TestP18CodesByHand(t *testing.T) {
+	for _, c := range codesByHand() {
 		if got := asksOf(t, c.text, c.client, c.proc, c.at, c.fact); got != c.want {
 			t.Errorf("%q: client %d, {%d %d}, fact %d: %d, want %d", c.text, c.client, c.proc, c.at, c.fact, got, c.want)
 		}
@@ -1017,55 +1024,60 @@ func TestP18NoRoomForAnswers(t *testing.T) {
 	}
 }
 
+// eachFault tells wrong of each way in which one part alone of a right server can be made wrong.
+func eachFault(t *testing.T, base impl.Server, wrong func(why string, change func(s *impl.Server))) {
+	t.Helper()
+	wrong("Now", func(s *impl.Server) { s.Now = -1 })
+	wrong("Now", func(s *impl.Server) { s.Now = 1000001 })
+	wrong("Next", func(s *impl.Server) { s.Next = 0 })
+	wrong("Next", func(s *impl.Server) { s.Next = 1000001 })
+	wrong("Turn", func(s *impl.Server) { s.Queue.Turn = 8 })
+	wrong("Turn", func(s *impl.Server) { s.Queue.Turn = -1 })
+	wrong("no Queue", func(s *impl.Server) { s.Queue = impl.Queue{} })
+	wrong("seven Lines", func(s *impl.Server) { s.Queue.Lines = s.Queue.Lines[:7] })
+	wrong("nine Lines", func(s *impl.Server) { s.Queue.Lines = append(s.Queue.Lines, nil) })
+	wrong("a number in a Line", func(s *impl.Server) { s.Queue.Lines[1] = append(s.Queue.Lines[1], 0) })
+	wrong("a long Line", func(s *impl.Server) { s.Queue.Lines[1] = []int64{1, 2, 3, 4, 5, 6} })
+	wrong("a stranger in a Line", func(s *impl.Server) { s.Queue.Lines[6] = append(s.Queue.Lines[6], 999999) })
+	wrong("one more Question", func(s *impl.Server) {
+		s.Next = 1000000
+		s.Questions = append(slices.DeleteFunc(s.Questions, func(q impl.Question) bool { return q.Number == 999999 }), question(999999, 6))
+	})
+	wrong("one more Answer", func(s *impl.Server) { s.Answers = append(s.Answers, impl.Answer{Number: s.Next, Code: 1}) })
+	wrong("no Room", func(s *impl.Server) { s.Cache.Room = 0 })
+	wrong("too much Room", func(s *impl.Server) { s.Cache.Room = 21 })
+	wrong("no Cache", func(s *impl.Server) { s.Cache = impl.Cache{} })
+	wrong("one Item twice", func(s *impl.Server) { s.Cache = cache(3, soItem(1, "r"), soItem(1, "r")) })
+	wrong("no Name", func(s *impl.Server) { s.Store = store(project(t, "", 1, "r")) })
+	wrong("no Version", func(s *impl.Server) { s.Store = store(impl.Project{Name: "a"}) })
+	wrong("Names that do not rise", func(s *impl.Server) { s.Store = store(project(t, "b", 1, "r"), project(t, "a", 1, "r")) })
+	wrong("Ids with a gap", func(s *impl.Server) {
+		s.Store = store(project(t, "b", 1, "r", "r"))
+		s.Store[0].Versions[1].Id = 3
+	})
+	wrong("no Program", func(s *impl.Server) {
+		s.Store = store(project(t, "b", 1, "r"))
+		s.Store[0].Versions[0].Program = alone(skip())
+	})
+	for i := range base.Questions {
+		wrong("the zero Question", func(s *impl.Server) { s.Questions[i] = impl.Question{} })
+		wrong("one Question less", func(s *impl.Server) { s.Questions = slices.Delete(s.Questions, i, i+1) })
+		wrong("one Question twice", func(s *impl.Server) { s.Questions = slices.Insert(s.Questions, i, s.Questions[i]) })
+	}
+	for i := range min(len(base.Answers), 5) {
+		wrong("the zero Answer", func(s *impl.Server) { s.Answers[i] = impl.Answer{} })
+	}
+}
+
 // A server that is not right in one part alone.
 func TestP18WrongServers(t *testing.T) {
 	checkNoServer(t, "the zero Server", impl.Server{})
 	for _, base := range someServers(t) {
 		checkRightServer(t, base)
-		wrong := func(why string, change func(s *impl.Server)) {
+		eachFault(t, base, func(why string, change func(s *impl.Server)) {
 			t.Helper()
 			checkEitherServer(t, why, serverWith(base, change), false)
-		}
-		wrong("Now", func(s *impl.Server) { s.Now = -1 })
-		wrong("Now", func(s *impl.Server) { s.Now = 1000001 })
-		wrong("Next", func(s *impl.Server) { s.Next = 0 })
-		wrong("Next", func(s *impl.Server) { s.Next = 1000001 })
-		wrong("Turn", func(s *impl.Server) { s.Queue.Turn = 8 })
-		wrong("Turn", func(s *impl.Server) { s.Queue.Turn = -1 })
-		wrong("no Queue", func(s *impl.Server) { s.Queue = impl.Queue{} })
-		wrong("seven Lines", func(s *impl.Server) { s.Queue.Lines = s.Queue.Lines[:7] })
-		wrong("nine Lines", func(s *impl.Server) { s.Queue.Lines = append(s.Queue.Lines, nil) })
-		wrong("a number in a Line", func(s *impl.Server) { s.Queue.Lines[1] = append(s.Queue.Lines[1], 0) })
-		wrong("a long Line", func(s *impl.Server) { s.Queue.Lines[1] = []int64{1, 2, 3, 4, 5, 6} })
-		wrong("a stranger in a Line", func(s *impl.Server) { s.Queue.Lines[6] = append(s.Queue.Lines[6], 999999) })
-		wrong("one more Question", func(s *impl.Server) {
-			s.Next = 1000000
-			s.Questions = append(slices.DeleteFunc(s.Questions, func(q impl.Question) bool { return q.Number == 999999 }), question(999999, 6))
 		})
-		wrong("one more Answer", func(s *impl.Server) { s.Answers = append(s.Answers, impl.Answer{Number: s.Next, Code: 1}) })
-		wrong("no Room", func(s *impl.Server) { s.Cache.Room = 0 })
-		wrong("too much Room", func(s *impl.Server) { s.Cache.Room = 21 })
-		wrong("no Cache", func(s *impl.Server) { s.Cache = impl.Cache{} })
-		wrong("one Item twice", func(s *impl.Server) { s.Cache = cache(3, soItem(1, "r"), soItem(1, "r")) })
-		wrong("no Name", func(s *impl.Server) { s.Store = store(project(t, "", 1, "r")) })
-		wrong("no Version", func(s *impl.Server) { s.Store = store(impl.Project{Name: "a"}) })
-		wrong("Names that do not rise", func(s *impl.Server) { s.Store = store(project(t, "b", 1, "r"), project(t, "a", 1, "r")) })
-		wrong("Ids with a gap", func(s *impl.Server) {
-			s.Store = store(project(t, "b", 1, "r", "r"))
-			s.Store[0].Versions[1].Id = 3
-		})
-		wrong("no Program", func(s *impl.Server) {
-			s.Store = store(project(t, "b", 1, "r"))
-			s.Store[0].Versions[0].Program = alone(skip())
-		})
-		for i := range base.Questions {
-			wrong("the zero Question", func(s *impl.Server) { s.Questions[i] = impl.Question{} })
-			wrong("one Question less", func(s *impl.Server) { s.Questions = slices.Delete(s.Questions, i, i+1) })
-			wrong("one Question twice", func(s *impl.Server) { s.Questions = slices.Insert(s.Questions, i, s.Questions[i]) })
-		}
-		for i := range min(len(base.Answers), 5) {
-			wrong("the zero Answer", func(s *impl.Server) { s.Answers[i] = impl.Answer{} })
-		}
 	}
 }
 
